@@ -10,7 +10,7 @@ import (
 	"loop.example/g01405/impl"
 )
 
-// call is a call of a function of chapter 1; results are all but the code, and the code.
+// call is a call of a function; results are all but the code, and the code.
 type call struct {
 	name    string
 	results func() ([]any, int64)
@@ -59,6 +59,8 @@ func spoil(t *testing.T, name string, result any) {
 		spoilSlice(list, impl.Run{Long: 99})
 	case []int64:
 		spoilSlice(list, 99)
+	case []string:
+		spoilSlice(list, "spoilt")
 	case [][]impl.Cell:
 		for i, piece := range list {
 			spoilSlice(piece, impl.Cell{X: 99, Y: int8(i)})
