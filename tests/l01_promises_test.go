@@ -65,6 +65,10 @@ func spoil(t *testing.T, name string, result any) {
 		spoilSlice(list, impl.Weather{Rain: 99, Warm: 99})
 	case []impl.Haul:
 		spoilSlice(list, impl.Haul{Amount: 99})
+	case []impl.Weeds:
+		spoilSlice(list, impl.Weeds{9: 999})
+	case []impl.Round:
+		spoilSlice(list, impl.Round{Row: 99})
 	case [][]impl.Cell:
 		for i, piece := range list {
 			spoilSlice(piece, impl.Cell{X: 99, Y: int8(i)})
